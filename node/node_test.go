@@ -779,6 +779,15 @@ func TestCountAny(t *testing.T) {
 	}
 }
 
+// chain answers a message within a message, and so on, so many in all.
+func chain(depth int) api.Node {
+	n := message()
+	for range depth - 1 {
+		n = message(n)
+	}
+	return n
+}
+
 // P1: lists that stand within themselves, chains that are very deep.
 func TestEnds(t *testing.T) {
 	for _, wide := range []int{1, 2, 5, 100} {
@@ -794,11 +803,7 @@ func TestEnds(t *testing.T) {
 			t.Errorf("Of a list of %d within itself: %d", wide, len(got))
 		}
 	}
-	chain := api.Node{Kind: api.KMessage, Text: "A"}
-	for range 1 << 16 {
-		chain = api.Node{Kind: api.KMessage, Text: "A", Kids: []api.Node{chain}}
-	}
-	n := file(chain)
+	n := file(chain(1 << 16))
 	if node.Check(n) || node.Count(n) != 30000 || node.Deep(n) != 100 || node.Same(n, n) {
 		t.Error("a chain")
 	}
@@ -806,7 +811,7 @@ func TestEnds(t *testing.T) {
 	for ; len(got) == 1; got = got[0].Kids {
 		depth++
 	}
-	if depth != 1<<16+1 || len(got) != 0 {
+	if depth != 1<<16 || len(got) != 0 {
 		t.Errorf("Of a chain: %d", depth)
 	}
 	// A list that begins where another does is another one, if it has not its length.
@@ -825,6 +830,97 @@ func TestEnds(t *testing.T) {
 	both := file(mk(api.KMessage, "A", twice...), mk(api.KMessage, "B", twice...), mk(api.KMessage, "C", mk(api.KMessage, "D", twice...), mk(api.KMessage, "E", twice...)))
 	if got := (api.Node{Kind: api.KFile, Kids: node.Of(both, api.KMessage)}); !node.Same(got, both) {
 		t.Errorf("a list in two places: %v", got)
+	}
+}
+
+// ring answers a list of so many messages, each of which has a list like it, the last of these being the first again.
+func ring(period, wide int) []api.Node {
+	lists := make([][]api.Node, period)
+	for i := range lists {
+		lists[i] = make([]api.Node, wide)
+	}
+	for i, l := range lists {
+		for k := range l {
+			l[k] = api.Node{Kind: api.KMessage, Text: "A", Kids: lists[(i+1)%period]}
+		}
+	}
+	return lists[0]
+}
+
+// tower answers a list of two messages, each of which has a list like it, so many lists in all; apart says that the two lists of one storey are two.
+func tower(storeys int, apart bool) []api.Node {
+	left, right := []api.Node{message(), message()}, []api.Node{message(), message()}
+	for range storeys - 1 {
+		if !apart {
+			right = left
+		}
+		kids := []api.Node{mk(api.KMessage, "A", left...), mk(api.KMessage, "A", right...)}
+		left, right = kids, slices.Clone(kids)
+	}
+	return left
+}
+
+// holdAlike holds that Of answers of lists that read alike what reads alike.
+func holdAlike(t *testing.T, what string, a, b []api.Node) {
+	t.Helper()
+	x, y := node.Of(api.Node{Kind: api.KFile, Kids: a}, api.KMessage), node.Of(api.Node{Kind: api.KFile, Kids: b}, api.KMessage)
+	if len(x) != len(a) || !reflect.DeepEqual(x, y) {
+		t.Errorf("%s: Of answers %d nodes of the one, %d of the other, or they differ", what, len(x), len(y))
+	}
+}
+
+// P7.4, P3: what Of answers hangs on what the nodes read, not on where their lists lie.
+func TestOfAlike(t *testing.T) {
+	for period := 2; period < 7; period++ {
+		for wide := 1; wide < 5; wide++ {
+			holdAlike(t, fmt.Sprint("rings of ", period, ", wide ", wide), ring(1, wide), ring(period, wide))
+			whole := ring(period, wide+1)
+			for i := range whole {
+				whole[i].Kids[wide-1].Kids = whole[:wide]
+			}
+			holdAlike(t, fmt.Sprint("rings of pieces of lists ", period, ", wide ", wide), whole, slices.Clone(whole))
+		}
+	}
+	for _, storeys := range []int{1, 2, 3, 10, 40, 60} {
+		holdAlike(t, fmt.Sprint("towers of ", storeys), tower(storeys, false), tower(storeys, true))
+	}
+	// A ring that a finite tree leads to.
+	holdAlike(t, "rings farther down", []api.Node{message(ring(1, 2)...)}, []api.Node{message(ring(3, 2)...)})
+	holdAlike(t, "a ring and its second list", ring(1, 1), ring(2, 1)[0].Kids)
+}
+
+// P7.4, P1: trees within the bounds come whole, however their lists lie; of others at least the kids come.
+func TestOfBounds(t *testing.T) {
+	of := func(kids ...api.Node) []api.Node { return node.Of(file(kids...), api.KMessage) }
+	both := of(tower(14, false)...)
+	count := 0
+	for i := range both {
+		walk(&both[i], func(*api.Node) { count++ })
+	}
+	if count != 1<<15-2 {
+		t.Errorf("Of a tower of 14 has %d nodes", count)
+	}
+	if got := of(mk(api.KMessage, "A", make([]api.Node, 100000)...)); len(got) != 1 || len(got[0].Kids) != 100000 {
+		t.Error("Of a message of 100000 kids")
+	}
+	far := chain(1<<16 + 1)
+	for what, kid := range map[string]api.Node{
+		"a chain beyond the bound": far,
+		"a tower of 60":            message(tower(60, true)...),
+		"texts beyond the bound":   message(slices.Repeat([]api.Node{mk(api.KMessage, strings.Repeat("a", 1<<20))}, 1<<11)...),
+		"Docs beyond the bound":    message(slices.Repeat([]api.Node{{Doc: strings.Repeat("a", 1<<20)}}, 1<<11)...),
+		"a ring with a long text":  message(with(mk(api.KMessage, strings.Repeat("a", 1<<20)), func(n *api.Node) { n.Kids = ring(1, 2) })),
+	} {
+		kid.N, kid.M, kid.A, kid.At, kid.Doc = 1, 2, 3, 4, "x"
+		want := kid
+		want.Kids = nil
+		if got := of(message(), kid, mk(api.KEnum, "E")); len(got) != 2 || !reflect.DeepEqual(got[1], want) {
+			t.Errorf("%s: Of answers %d kids", what, len(got))
+		}
+		// What isn't asked for doesn't count.
+		if got := node.Of(file(kid, mk(api.KEnum, "E", message())), api.KEnum); len(got) != 1 || len(got[0].Kids) != 1 {
+			t.Errorf("%s beside: %v", what, got)
+		}
 	}
 }
 
