@@ -439,6 +439,26 @@ func TestSyntheticLong(t *testing.T) {
 	synthetic(t, "b", "_b", taken...)
 }
 
+// P6.7: all lists of a few names that are taken, or near it, held against the promise's own words.
+func TestSyntheticAll(t *testing.T) {
+	near := []string{"_a", "X_a", "XX_a", "XXX_a", "Y_a", "_aX", "X_", "XXXXXXXXXXXX_a"}
+	for set := range 1 << len(near) {
+		var taken []string
+		for i, name := range near {
+			if set>>i&1 > 0 {
+				taken = append(taken, name)
+			}
+		}
+		want := "_a"
+		for slices.Contains(taken, want) {
+			want = "X" + want
+		}
+		synthetic(t, "a", want, taken...)
+		slices.Reverse(taken)
+		synthetic(t, "a", want, slices.Concat(taken, taken)...)
+	}
+}
+
 // P3: a nil list is an empty one.
 func TestNil(t *testing.T) {
 	if a, b := names.Synthetic("a", nil), names.Synthetic("a", []string{}); a != "_a" || b != "_a" {
