@@ -395,6 +395,8 @@ func memory(v reflect.Value) [][2]uintptr {
 		for i := range v.NumField() {
 			l = append(l, memory(v.Field(i))...)
 		}
+	case reflect.Interface:
+		l = memory(v.Elem())
 	case reflect.Slice:
 		l = append(l, [2]uintptr{v.Pointer(), v.Pointer() + uintptr(v.Cap())*v.Type().Elem().Size()})
 		for i := range v.Len() {
@@ -417,29 +419,27 @@ func TestMemory(t *testing.T) {
 	p := made(t, l...)
 	kept, _ := p.Message("two.All")
 	room := append(make([]byte, 0, 100), "\xa0\x1f\x01"...)
-	spans := memory(reflect.ValueOf([]any{}))
-	var answers [][]byte
+	// What nothing holds any more may lie where what comes later does.
+	held := []any{l, kept}
 	for _, m := range []api.Msg{{Unknown: room}, msg(slot(9, b("abc"))), msg(slot(11, api.Val{M: unknown("\xa0\x1f\x01")})), {Slots: []api.Slot{ones(3, 5), ones(203, 5, 6)}, Unknown: []byte("\xa0\x1f\x01")}} {
 		for range 2 {
 			got, err := encode.Msg(p, "two.All", m)
 			if err != api.OK {
 				t.Fatal(err)
 			}
-			answers = append(answers, got)
+			held = append(held, got)
 		}
-		spans = append(spans, memory(reflect.ValueOf(m))...)
+		held = append(held, m)
 	}
 	for _, kind := range types() {
 		v := api.Val{N: 1, B: []byte("abc")}
 		for range 2 {
 			got, _ := encode.Scalar(kind, v)
-			answers = append(answers, got)
+			held = append(held, got)
 		}
-		spans = append(spans, memory(reflect.ValueOf(v))...)
+		held = append(held, v)
 	}
-	for _, part := range []any{l, kept, answers} {
-		spans = append(spans, memory(reflect.ValueOf(part))...)
-	}
+	spans := memory(reflect.ValueOf(held))
 	slices.SortFunc(spans, func(a, b [2]uintptr) int { return int(a[0]) - int(b[0]) })
 	for i := range spans[1:] {
 		if spans[i][1] > spans[i+1][0] {

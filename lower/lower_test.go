@@ -5,6 +5,7 @@ import (
 	"math"
 	"math/big"
 	"reflect"
+	"runtime"
 	"slices"
 	"strconv"
 	"strings"
@@ -692,6 +693,8 @@ func TestMemory(t *testing.T) {
 	var given, givenTexts, lists, texts []span
 	memory(reflect.ValueOf(n), &given, &givenTexts)
 	memory(reflect.ValueOf(path), &given, &givenTexts)
+	// What nothing holds any more may lie where what comes later does.
+	var held []any
 	for range 2 {
 		f, asked, _, err := lower.File(n, path)
 		if err != api.OK {
@@ -699,11 +702,14 @@ func TestMemory(t *testing.T) {
 		}
 		memory(reflect.ValueOf(f), &lists, &texts)
 		memory(reflect.ValueOf(asked), &lists, &texts)
+		held = append(held, f, asked)
 	}
 	for _, worth := range n.Kids[4].Kids[1].Kids[1].Kids[1:] {
 		text, _ := lower.Default(api.TInt32, worth)
 		memory(reflect.ValueOf(text), &lists, &texts)
+		held = append(held, text)
 	}
+	runtime.KeepAlive(held)
 	all := slices.Concat(lists, given)
 	slices.SortFunc(all, func(a, b span) int { return int(a.from) - int(b.from) })
 	for i := range all[1:] {

@@ -777,8 +777,10 @@ func TestMemory(t *testing.T) {
 	}
 	p := made(t, l...)
 	given := copied(l)
+	// What nothing holds any more may lie where what comes later does.
+	held := append(answers(p, l), answers(p, l)...)
 	var spans []span
-	for _, part := range append(answers(p, l), answers(p, l)...) {
+	for _, part := range held {
 		spans = append(spans, memory(reflect.ValueOf(part))...)
 	}
 	spans = append(spans, memory(reflect.ValueOf(l))...)
@@ -788,6 +790,7 @@ func TestMemory(t *testing.T) {
 		t.Fatal(err)
 	}
 	spans = append(spans, memory(reflect.ValueOf(full))...)
+	runtime.KeepAlive(held)
 	slices.SortFunc(spans, func(a, b span) int { return int(a.from) - int(b.from) })
 	for i := range spans[1:] {
 		if spans[i].to > spans[i+1].from {
