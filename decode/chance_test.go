@@ -304,6 +304,33 @@ func TestModel(t *testing.T) {
 	}
 }
 
+// P19.1, P19.3 on bytes by chance that stand as deep as they may, or deeper.
+func TestDeepModel(t *testing.T) {
+	s := &sampler{Rand: rand.New(rand.NewPCG(7, 19)), files: base(), world: worldOf(base())}
+	p := made(t, s.files...)
+	met := map[api.Errno]int{}
+	for range 400 {
+		b := s.bytes("two.One", 2+s.IntN(3))
+		for range 61 + s.IntN(4) {
+			b = in(3, b)
+		}
+		got, err := decode.Msg(p, "two.One", []byte(b))
+		want, wrong := s.world.decode("two.One", b)
+		if said(got) != said(want) || err != wrong {
+			t.Fatalf("Msg(%x): %s, %d, want %s, %d", b, said(got), err, said(want), wrong)
+		}
+		met[err]++
+		if err == api.OK {
+			back(t, p, "two.One", got)
+		}
+	}
+	for _, err := range []api.Errno{api.OK, api.ErrLong} {
+		if met[err] < 100 {
+			t.Errorf("%d is answered %d times", err, met[err])
+		}
+	}
+}
+
 // P19.2 on numbers by chance.
 func TestScalarModel(t *testing.T) {
 	for _, kind := range append(types(), 0, 10, 19, -1) {

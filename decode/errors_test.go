@@ -11,7 +11,9 @@ import (
 	"glossary/api"
 	"glossary/copies"
 	"glossary/decode"
+	"glossary/encode"
 	"glossary/pool"
+	"glossary/value"
 )
 
 // P19.1: of one Number the first field counts: fields first, then extensions by their full names.
@@ -105,23 +107,25 @@ func deep(levels, num int, innermost string) string {
 	return innermost
 }
 
-// P19.1: 64 messages within one another, and one more.
+// P19.1: 64 messages within one another, and one more, which counts if it has anything in it.
 func TestDeep(t *testing.T) {
 	p := made(t, base()...)
 	for _, num := range []int{11, 111, 211} {
 		for levels := 1; levels <= api.MaxDeep; levels++ {
 			for _, x := range []try{{uv(3, 5), "{3=5}"}, {uv(99, 1), "{?980601}"}, {"", "0"}} {
-				want := x.want
-				for range levels - 1 {
-					want = "{" + decimal(uint64(num)) + "=" + want + "}"
-				}
-				hold(t, p, "two.All", deep(levels, num, x.bytes), strings.TrimSuffix(strings.TrimPrefix(strings.TrimPrefix(want, "{"), "0"), "}"))
+				holdDeep(t, p, levels, num, x)
 			}
 		}
-		for _, levels := range []int{65, 66, 100, 1000} {
-			for _, innermost := range []string{uv(3, 5), "", "\x08", in(9, "\xff"), in(103, "\x80")} {
+		for _, nothing := range []string{"", in(105), in(105) + in(114)} {
+			holdDeep(t, p, 65, num, try{nothing, "0"})
+		}
+		for _, levels := range []int{66, 67, 100, 1000} {
+			for _, innermost := range []string{uv(3, 5), "", "\x08", in(9, "\xff"), in(103, "\x80"), in(105)} {
 				refuse(t, p, "three.All", deep(levels, num, innermost), api.ErrLong)
 			}
+		}
+		for _, innermost := range []string{uv(3, 5), uv(3, 0), uv(99, 1), uv(105, 0), in(9), in(105, "\x00"), in(11), in(11, "\x08"), in(105) + in(9, "a") + in(105)} {
+			refuse(t, p, "three.All", deep(65, num, innermost), api.ErrLong)
 		}
 		// What isn't a message doesn't count.
 		hold(t, p, "two.None", deep(100, num, ""), "?"+hexOf(deep(100, num, "")))
@@ -134,23 +138,90 @@ func TestDeep(t *testing.T) {
 			t.Errorf("%s, %d", said(m), err)
 		}
 	}
-	// So it is of extensions, of maps, and of messages that come again.
-	for levels, want := range map[int]api.Errno{64: api.OK, 65: api.ErrLong} {
-		for _, bytes := range []string{deep(levels, 1004, ""), deep(3, 11, "") + deep(levels, 11, uv(3, 5)) + deep(3, 11, ""), deep(64, 11, "") + deep(levels, 11, "")} {
-			if _, err := decode.Msg(p, "three.All", []byte(bytes)); err != want {
-				t.Errorf("%d: %d", levels, err)
-			}
+	// So it is of extensions, and of messages that come again, or are taken away.
+	for _, x := range []try{{deep(64, 1004, ""), ""}, {deep(65, 1004, ""), ""}, {deep(65, 1004, uv(3, 5)), "long"}, {deep(64, 11, "") + deep(65, 11, "") + deep(65, 11, in(105)), ""}, {deep(64, 11, uv(3, 5)) + deep(65, 11, ""), ""},
+		{deep(3, 11, "") + deep(65, 11, uv(3, 5)) + deep(3, 11, ""), "long"}, {deep(65, 11, "") + deep(65, 11, uv(3, 5)), "long"}, {deep(65, 11, "") + deep(66, 11, ""), "long"}} {
+		if _, err := decode.Msg(p, "three.All", []byte(x.bytes)); (err == api.ErrLong) != (x.want == "long") {
+			t.Errorf("%x: %d", x.bytes, err)
 		}
 	}
+	for _, x := range []try{{in(3) + uv(1, 1), ""}, {in(3, uv(7, 1)), "long"}, {in(3, uv(7, 1)) + uv(1, 1), "long"}} {
+		if _, err := decode.Msg(p, "two.One", []byte(deep(64, 3, x.bytes))); (err == api.ErrLong) != (x.want == "long") {
+			t.Errorf("%x: %d", x.bytes, err)
+		}
+	}
+}
+
+// holdDeep holds of an innermost message what is wanted of it; 0 is one without anything in it.
+func holdDeep(t *testing.T, p *pool.Pool, levels, num int, innermost try) {
+	t.Helper()
+	want := innermost.want
+	for range levels - 1 {
+		want = "{" + decimal(uint64(num)) + "=" + want + "}"
+	}
+	hold(t, p, "two.All", deep(levels, num, innermost.bytes), strings.TrimSuffix(strings.TrimPrefix(strings.TrimPrefix(want, "{"), "0"), "}"))
+}
+
+// P19.1: entries of maps count as other messages do.
+func TestDeepEntries(t *testing.T) {
 	l := []api.Message{{Name: "M", Fields: []api.Field{field("m", 1, 3, api.TMessage, ".Entry")}}, entry("Entry", api.TInt32, api.TMessage, ".M")}
-	within := made(t, api.File{Name: "a", Messages: l})
+	p := made(t, api.File{Name: "a", Messages: l})
 	bytes := ""
 	for levels := 2; levels < 70; levels++ {
 		bytes = in(levels%2+1, bytes)
 		if levels%2 == 0 {
-			_, err := decode.Msg(within, "M", []byte(bytes+uv(9, 1)))
-			if (err == api.ErrLong) != (levels > 64) {
+			_, err := decode.Msg(p, "M", []byte(bytes+uv(9, 1)))
+			if (err == api.ErrLong) != (levels > 65) {
 				t.Errorf("%d: %d", levels, err)
+			}
+		}
+	}
+	for inner, want := range map[string]api.Errno{"": api.OK, uv(1, 0): api.ErrLong, uv(3, 5): api.ErrLong} {
+		bytes = in(1, inner) + in(1, inner)
+		for level := 63; level > 0; level-- {
+			bytes = in(level%2+1, bytes)
+		}
+		if _, err := decode.Msg(p, "Entry", []byte(bytes)); err != want {
+			t.Errorf("%x: %d", inner, err)
+		}
+	}
+}
+
+// P19.1, P4: the errors of the one message that is too many come ahead, but for those of messages within it.
+func TestDeepErrors(t *testing.T) {
+	p := made(t, base()...)
+	for innermost, want := range map[string]api.Errno{"\x08": api.ErrVarint, "\x00\x01": api.ErrTag, "\x0a\x01": api.ErrWire, in(9, "\xff"): api.ErrText, in(105, "\x80"): api.ErrWorth, uv(3, 5) + in(9, "\xff"): api.ErrText, uv(99, 1) + in(105, "\x80"): api.ErrWorth,
+		in(9, "\xff") + in(11): api.ErrText, in(11) + in(9, "\xff"): api.ErrLong, in(11) + "\x08": api.ErrVarint, in(11, "\x08"): api.ErrLong} {
+		for _, num := range []int{11, 111, 211} {
+			refuse(t, p, "three.All", deep(65, num, innermost), want)
+		}
+	}
+}
+
+// P19.3: what may stand within one another is told again.
+func TestDeepBack(t *testing.T) {
+	p := made(t, base()...)
+	for levels := 60; levels < 70; levels++ {
+		for _, num := range []int{11, 111, 211} {
+			for _, within := range []int{0, 11, 111, 211} {
+				m := api.Msg{}
+				if within != 0 {
+					m = api.Msg{Slots: []api.Slot{{Num: within, Vals: []api.Val{{}}}}}
+				}
+				for range levels - 1 {
+					m = api.Msg{Slots: []api.Slot{{Num: num, Vals: []api.Val{{M: m}}}}}
+				}
+				b, err := encode.Msg(p, "two.All", m)
+				fits := levels < 65 || levels == 65 && within == 0
+				if (err == api.OK) != fits || value.Fit(p, "two.All", m) != fits {
+					t.Errorf("%d, %d, %d: %d", levels, num, within, err)
+				}
+				if !fits {
+					continue
+				}
+				if again, err := decode.Msg(p, "two.All", b); err != api.OK || !value.Same(again, m) {
+					t.Errorf("%d, %d, %d: %s, %d", levels, num, within, said(again), err)
+				}
 			}
 		}
 	}
@@ -223,7 +294,7 @@ func TestErrorOrder(t *testing.T) {
 		bytes string
 		want  api.Errno
 	}{
-		{in(9, "\xff"), api.ErrText}, {in(105, "\x80"), api.ErrWorth}, {in(11, "\x08"), api.ErrVarint}, {in(11, "\x00\x01"), api.ErrTag}, {in(11, "\x0a\x01"), api.ErrWire}, {deep(65, 11, ""), api.ErrLong},
+		{in(9, "\xff"), api.ErrText}, {in(105, "\x80"), api.ErrWorth}, {in(11, "\x08"), api.ErrVarint}, {in(11, "\x00\x01"), api.ErrTag}, {in(11, "\x0a\x01"), api.ErrWire}, {deep(66, 11, ""), api.ErrLong},
 		{in(11, in(9, "\xff")), api.ErrText}, {in(111, in(11, in(105, "\x80"))), api.ErrWorth}, {in(107, "\x01"), api.ErrWorth},
 	}
 	for _, first := range faults {

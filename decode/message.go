@@ -29,6 +29,11 @@ func newMessage(deep int) *message {
 	return &message{deep: deep, slots: map[int]*slot{}, oneofs: map[int]int{}}
 }
 
+// isNothing answers whether nothing has come that stays.
+func (m *message) isNothing() bool {
+	return len(m.slots) == 0 && len(m.unknown) == 0
+}
+
 // leave keeps a field that no other takes.
 func (m *message) leave(r api.Raw) {
 	// What wire has read has a number and a kind that it puts too.

@@ -251,6 +251,18 @@ func list(f owned, r onWire) ([]api.Val, bool) {
 	return l, true
 }
 
+// wrongWithin answers the first error of a message that stands in others, down to how many there are, but for ErrRequired.
+func (w world) wrongWithin(full, b string, levels int) api.Errno {
+	if levels > 65 {
+		return api.ErrLong
+	}
+	err := w.wrong(full, b, levels)
+	if err == api.OK && levels == 65 && said(w.told(full, b)) != said(api.Msg{}) {
+		err = api.ErrLong
+	}
+	return err
+}
+
 // wrong answers the first error of bytes, but for ErrRequired.
 func (w world) wrong(full, b string, levels int) api.Errno {
 	if _, is := w.find(full).what.(api.Message); !is || full == "" {
@@ -261,10 +273,8 @@ func (w world) wrong(full, b string, levels int) api.Errno {
 		f, is := w.taking(full, r)
 		switch {
 		case !is || err != api.OK || f.Type == api.TBytes:
-		case f.Type == api.TMessage && levels == 64:
-			err = api.ErrLong
 		case f.Type == api.TMessage:
-			err = w.wrong(w.typed(f).full, r.b, levels+1)
+			err = w.wrongWithin(w.typed(f).full, r.b, levels+1)
 		case f.Type == api.TString:
 			if w.proto3(f.owner) && !utf8.ValidString(r.b) {
 				err = api.ErrText

@@ -8,8 +8,9 @@ import (
 )
 
 const (
-	size32 = 4 // bytes of a number on WireI32
-	size64 = 8 // and on WireI64
+	size32       = 4 // bytes of a number on WireI32
+	size64       = 8 // and on WireI64
+	firstTooDeep = api.MaxDeep + 1
 )
 
 // takerOf answers what takes the fields of a member.
@@ -148,12 +149,17 @@ func (r reader) messages(f shape.Member) taker {
 func (r reader) filling(f shape.Member) func(to *message, b []byte) {
 	of, typed := f.Typed()
 	return func(to *message, b []byte) {
-		if to.deep > api.MaxDeep {
+		// Whatever it comes to, that in which it stands has something in it, and counts.
+		if to.deep > firstTooDeep {
 			panic(fault{api.ErrLong})
 		}
 		if !typed {
 			panic(fault{api.ErrNone})
 		}
 		r.fill(to, of, b)
+		// As value.Deep counts them: one without anything in it isn't one more.
+		if to.deep == firstTooDeep && !to.isNothing() {
+			panic(fault{api.ErrLong})
+		}
 	}
 }
